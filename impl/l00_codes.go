@@ -55,6 +55,14 @@ var codeWords = [...]string{
 	ErrSame:    "same",
 }
 
+type wholeNumber interface {
+	~int | ~byte
+}
+
+func between[N wholeNumber](n, low, high N) bool {
+	return low <= n && n <= high
+}
+
 func NameOK(t string) bool {
 	if len(t) == 0 || len(t) > MaxName || isDigit(t[0]) {
 		return false

@@ -63,14 +63,6 @@ func codeOfFault(err error) int {
 	return ErrBad
 }
 
-type wholeNumber interface {
-	~int | ~byte
-}
-
-func between[N wholeNumber](n, low, high N) bool {
-	return low <= n && n <= high
-}
-
 func checkBounds[N wholeNumber](n, low, high N, fault error) error {
 	if between(n, low, high) {
 		return nil
