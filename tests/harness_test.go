@@ -258,6 +258,24 @@ func askOrders(t *testing.T, list []ask) {
 	}
 }
 
+// tally counts how often what was thrown came out each way, so that no test goes through one of them alone.
+type tally struct{ yes, no int }
+
+func (c *tally) count(yes bool) {
+	if yes {
+		c.yes++
+	} else {
+		c.no++
+	}
+}
+
+func (c *tally) askBoth(t *testing.T) {
+	t.Helper()
+	if c.yes < 1000 || c.no < 1000 {
+		t.Error("too few of one sort:", c.yes, c.no)
+	}
+}
+
 // dice throws the same numbers in every run.
 type dice struct{ state uint64 }
 

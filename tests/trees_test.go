@@ -170,7 +170,7 @@ func TestP3SmallDocuments(t *testing.T) {
 // TestP3TurnedDocuments turns one thing of right documents, as dice fall.
 func TestP3TurnedDocuments(t *testing.T) {
 	throw := &dice{11}
-	right, wrong := 0, 0
+	var seen tally
 	for range 20000 {
 		d := thrownDoc(throw, 8)
 		n := &d.Nodes[throw.below(len(d.Nodes))]
@@ -197,15 +197,9 @@ func TestP3TurnedDocuments(t *testing.T) {
 		if impl.DocOK(d) != want {
 			t.Fatalf("DocOK is %v of %+v", !want, d)
 		}
-		if want {
-			right++
-		} else {
-			wrong++
-		}
+		seen.count(want)
 	}
-	if right < 1000 || wrong < 1000 {
-		t.Error("too few of one sort:", right, wrong)
-	}
+	seen.askBoth(t)
 }
 
 func TestP3PathsOfTheDemoDocument(t *testing.T) {
