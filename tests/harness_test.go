@@ -96,6 +96,11 @@ func fill(v reflect.Value, n int) {
 		v.SetInt(int64(7000 + n))
 	case reflect.String:
 		v.SetString("behind")
+	case reflect.Bool:
+		v.SetBool(n%2 == 0)
+	case reflect.Slice:
+		v.Set(reflect.MakeSlice(v.Type(), 1, 1))
+		fill(v.Index(0), n)
 	case reflect.Struct:
 		for i := range v.NumField() {
 			fill(v.Field(i), n+i)

@@ -66,28 +66,33 @@ func TestP4KidsThatTermsTake(t *testing.T) {
 	}
 }
 
-// TestP4AllSmallMatches goes through all lists of up to three terms of kinds 1 and 2, and all of up to four kids.
-func TestP4AllSmallMatches(t *testing.T) {
+// allTermLists are all lists of up to so many terms, each of kind 1, kind 2 or both.
+func allTermLists(most int) [][]impl.Term {
 	var single []impl.Term
 	for many := range 4 {
 		single = append(single, term(many, 1), term(many, 2), term(many, 1, 2))
 	}
-	lists := [][]impl.Term{nil}
-	for from, length := 0, 0; length < 3; length++ {
+	return allLists(single, most)
+}
+
+// allLists are all lists of up to so many elements, the shorter ones first.
+func allLists[E any](elements []E, most int) [][]E {
+	lists := [][]E{nil}
+	for from, length := 0, 0; length < most; length++ {
 		to := len(lists)
 		for _, ahead := range lists[from:to] {
-			for _, last := range single {
+			for _, last := range elements {
 				lists = append(lists, append(slices.Clone(ahead), last))
 			}
 		}
 		from = to
 	}
-	kids := [][]int{nil}
-	for i := 0; len(kids[i]) < 4; i++ {
-		for kid := 1; kid <= 3; kid++ {
-			kids = append(kids, append(slices.Clone(kids[i]), kid))
-		}
-	}
+	return lists
+}
+
+// TestP4AllSmallMatches goes through all lists of up to three terms of kinds 1 and 2, and all of up to four kids.
+func TestP4AllSmallMatches(t *testing.T) {
+	lists, kids := allTermLists(3), allLists([]int{1, 2, 3}, 4)
 	if len(lists) != 1+12+144+1728 || len(kids) != 1+3+9+27+81 {
 		t.Fatal("some are not there", len(lists), len(kids))
 	}
@@ -119,6 +124,20 @@ func taken(throw *dice, terms []impl.Term) []int {
 	return kids
 }
 
+// unsettled are the kids with some of them turned, and perhaps with more behind them, at most MaxKids.
+func unsettled(throw *dice, kids []int) []int {
+	kids = slices.Clone(kids)
+	for i := range kids {
+		if throw.below(4) == 0 {
+			kids[i] = 1 + throw.below(8)
+		}
+	}
+	for len(kids) < 12 && throw.below(3) == 0 {
+		kids = append(kids, 1+throw.below(8))
+	}
+	return kids
+}
+
 func TestP4TakenStretchByStretch(t *testing.T) {
 	throw := &dice{7}
 	var seen tally
@@ -128,14 +147,7 @@ func TestP4TakenStretchByStretch(t *testing.T) {
 		if match, code := impl.MatchKids(terms, kids); !match || code != impl.OK {
 			t.Fatalf("MatchKids(%v, %v) = %v, %d", terms, kids, match, code)
 		}
-		for i := range kids {
-			if throw.below(4) == 0 {
-				kids[i] = 1 + throw.below(8)
-			}
-		}
-		for len(kids) < 12 && throw.below(3) == 0 {
-			kids = append(kids, 1+throw.below(8))
-		}
+		kids = unsettled(throw, kids)
 		match, code := impl.MatchKids(terms, kids)
 		if match != matchByTheRule(terms, kids) || code != impl.OK {
 			t.Fatalf("MatchKids(%v, %v) = %v, %d", terms, kids, match, code)
