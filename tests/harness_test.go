@@ -7,6 +7,8 @@ import (
 	"sync"
 	"testing"
 	"unsafe"
+
+	"loop.example/g00701/impl"
 )
 
 // ask is a call of an exported function with what it is given. The rules of chapter 1 are asked of it, whatever it does.
@@ -220,7 +222,7 @@ func askNewMemory(t *testing.T, a ask, given []span, answers []reflect.Value) {
 func askNothingBesideACode(t *testing.T, a ask, answers []reflect.Value) {
 	t.Helper()
 	last := answers[len(answers)-1]
-	if len(answers) < 2 || last.Kind() != reflect.Int || last.Int() == 0 {
+	if len(answers) < 2 || last.Kind() != reflect.Int || last.Int() == 0 || tellsBeside(a.name, int(last.Int())) {
 		return
 	}
 	for _, v := range answers[:len(answers)-1] {
@@ -228,6 +230,17 @@ func askNothingBesideACode(t *testing.T, a ask, answers []reflect.Value) {
 			t.Errorf("%s: code %d, and beside it %s", a, last.Int(), told(v))
 		}
 	}
+}
+
+// tellsBeside: the chapters say of some calls that they answer more beside some of their codes.
+func tellsBeside(name string, code int) bool {
+	switch name {
+	case "CheckDoc":
+		return code == impl.ErrKind || code == impl.ErrContent
+	case "ApplyEdit":
+		return code != impl.ErrBad && code != impl.ErrLong
+	}
+	return false
 }
 
 // askOrders asks that no answer hangs on what was called ahead of it or is called beside it.
