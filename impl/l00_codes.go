@@ -1,5 +1,7 @@
 package impl
 
+import "strconv"
+
 const (
 	MaxText = 65536
 	MaxList = 4096
@@ -81,6 +83,19 @@ func isNameLetter(b byte) bool {
 
 func isDigit(b byte) bool {
 	return between(b, '0', '9')
+}
+
+// Of at most 18 digits, which any int can hold with either sign.
+const widestNumber = 999999999999999999
+
+// numberOf takes a number's text alone: what strconv reads besides (a sign or
+// noughts ahead) is told in other bytes.
+func numberOf(t string) (int, bool) {
+	n, err := strconv.Atoi(t)
+	if err != nil || strconv.Itoa(n) != t || !between(n, -widestNumber, widestNumber) {
+		return 0, false
+	}
+	return n, true
 }
 
 func CodeWord(code int) string {

@@ -252,3 +252,35 @@ func applyByTheRule(d impl.Doc, e impl.Edit) (impl.Doc, int) {
 	}
 	return then, impl.OK
 }
+
+// thrownEdits are edits of a document as it is then, but for one in some lists that is of a node that is not there.
+func thrownEdits(throw *dice, d impl.Doc, edits int) []impl.Edit {
+	var list []impl.Edit
+	for range edits {
+		e := thrownEdit(throw, d)
+		if then, code := applyByTheRule(d, e); code == impl.OK {
+			d = then
+		} else if throw.below(3) > 0 {
+			continue
+		}
+		list = append(list, e)
+	}
+	return list
+}
+
+func applyAllByTheRule(d impl.Doc, list []impl.Edit) (impl.Doc, int, int) {
+	if len(list) > impl.MaxList {
+		return impl.Doc{}, 0, impl.ErrLong
+	}
+	if !rightByTheRule(d) || slices.ContainsFunc(list, func(e impl.Edit) bool { return !editOKByTheRule(e) }) {
+		return impl.Doc{}, 0, impl.ErrBad
+	}
+	for i, e := range list {
+		then, code := applyByTheRule(d, e)
+		if code != impl.OK {
+			return d, i, code
+		}
+		d = then
+	}
+	return d, len(list), impl.OK
+}

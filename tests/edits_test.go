@@ -1,7 +1,6 @@
 package tests
 
 import (
-	"math"
 	"slices"
 	"testing"
 
@@ -132,7 +131,6 @@ func with(d impl.Doc, n impl.Node) impl.Doc {
 
 // TestP7EditsThatAreRefused: the codes in their order, and the document as it was.
 func TestP7EditsThatAreRefused(t *testing.T) {
-	late := func(d impl.Doc) impl.Doc { d.Next = 999999; return d }
 	joined := turned(fanDoc(3), func(d *impl.Doc) { d.Nodes[1].Text, d.Nodes[2].Text, d.Nodes[3].Kind = zeros(20), "x", 4 })
 	for i, v := range []struct {
 		d    impl.Doc
@@ -241,33 +239,4 @@ func TestP7EditsThatAreTakenBack(t *testing.T) {
 			t.Error("too few of kind", kind, seen)
 		}
 	}
-}
-
-// editAsks are calls of chapter 7 with documents and edits that are right and with such as are not.
-func editAsks() []ask {
-	var list []ask
-	edits := append(rightEdits(), wrongEdits()...)
-	for _, e := range edits {
-		list = append(list, ask{"EditOK", impl.EditOK, []any{e}}, ask{"ApplyEdit", impl.ApplyEdit, []any{demoDoc(), e}})
-	}
-	throw := &dice{101}
-	for i, d := range append(rightDocs(), wrongDocs()...) {
-		list = append(list, ask{"ApplyEdit", impl.ApplyEdit, []any{d, edits[i%len(edits)]}}, ask{"ApplyEdit", impl.ApplyEdit, []any{d, edit(impl.EdText, math.MaxInt)}})
-		for range 10 {
-			if len(d.Nodes) > 0 && d.Next > 0 && rightByTheRule(d) {
-				list = append(list, ask{"ApplyEdit", impl.ApplyEdit, []any{d, thrownEdit(throw, d)}})
-			}
-		}
-	}
-	return list
-}
-
-func TestP1RulesOfEdits(t *testing.T) {
-	for _, a := range editAsks() {
-		askRules(t, a)
-	}
-}
-
-func TestP1EditsDoNotHangOnWhatWasCalledAhead(t *testing.T) {
-	askOrders(t, editAsks())
 }

@@ -237,7 +237,7 @@ func tellsBeside(name string, code int) bool {
 	switch name {
 	case "CheckDoc":
 		return code == impl.ErrKind || code == impl.ErrContent
-	case "ApplyEdit":
+	case "ApplyEdit", "ApplyEdits":
 		return code != impl.ErrBad && code != impl.ErrLong
 	}
 	return false
