@@ -239,6 +239,8 @@ func tellsBeside(name string, code int) bool {
 		return code == impl.ErrKind || code == impl.ErrContent
 	case "ApplyEdit", "ApplyEdits":
 		return code != impl.ErrBad && code != impl.ErrLong
+	case "AskLock", "FreeLock":
+		return code != impl.ErrBad && code != impl.ErrRange
 	}
 	return false
 }

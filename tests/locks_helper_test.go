@@ -282,17 +282,25 @@ func conflictsByTheRule(d impl.Doc, list []impl.Hold, h impl.Hold) ([]int, int) 
 	if code := holdCodeByTheRule(d, list, h); code != impl.OK {
 		return nil, code
 	}
+	return againstByTheRule(d, list, h), impl.OK
+}
+
+func againstByTheRule(d impl.Doc, list []impl.Hold, h impl.Hold) []int {
 	var against []int
 	for _, session := range sessionsByTheRule(list) {
 		for _, node := range pathByTheRule(d, h.Node) {
-			wanted := joinModesByTheRule(hasByTheRule(d, list, h.Session, node), needByTheRule(d, h, node))
-			if session != h.Session && !fitsByTheRule(wanted, hasByTheRule(d, list, session, node)) {
+			if session != h.Session && !fitsByTheRule(wantedByTheRule(d, list, h, node), hasByTheRule(d, list, session, node)) {
 				against = append(against, session)
 				break
 			}
 		}
 	}
-	return against, impl.OK
+	return against
+}
+
+// wantedByTheRule is what a session has on a node, and what a lock of its own needs there, joined.
+func wantedByTheRule(d impl.Doc, list []impl.Hold, h impl.Hold, node int) int {
+	return joinModesByTheRule(hasByTheRule(d, list, h.Session, node), needByTheRule(d, h, node))
 }
 
 func coverByTheRule(d impl.Doc, list []impl.Hold, session, node int) (int, int) {
