@@ -183,8 +183,12 @@ func FrameText(t string) (string, int) {
 	if len(t) > MaxText-frameSpare {
 		return "", ErrSize
 	}
+	return frameText(t), OK
+}
+
+func frameText(t string) string {
 	ahead := frameLetters + putText(t)
-	return ahead + sumText(ahead), OK
+	return ahead + sumText(ahead)
 }
 
 func ReadFrame(t string) (string, int) {
